@@ -1,0 +1,118 @@
+package diagram
+
+import (
+	"tollbridge/api"
+	"tollbridge/nodes"
+)
+
+// storeLeaf is the Field by which a store tells a leaf.
+const storeLeaf = -1
+
+// isNothing tells whether a node is the leaf without rows.
+func isNothing(s *nodes.Store, id int) bool {
+	node, _ := s.Get(id)
+	return node.Field == storeLeaf && len(node.Leaf) == 0
+}
+
+// isSame tells whether a node is the leaf of one row without settings.
+func isSame(s *nodes.Store, id int) bool {
+	node, _ := s.Get(id)
+	return node.Field == storeLeaf && len(node.Leaf) == 1 && len(node.Leaf[0]) == 0
+}
+
+func isPredicate(s *nodes.Store, id int) bool {
+	seen := map[int]struct{}{}
+	var down func(id int) bool
+	down = func(id int) bool {
+		if _, ok := seen[id]; ok {
+			return true
+		}
+		seen[id] = struct{}{}
+		node, _ := s.Get(id)
+		if node.Field == storeLeaf {
+			return isNothing(s, id) || isSame(s, id)
+		}
+		return down(node.Hi) && down(node.Lo)
+	}
+	return down(id)
+}
+
+// leafOf tells the rows to which a header comes.
+func leafOf(s *nodes.Store, id int, h api.Header) [][]api.Action {
+	node, _ := s.Get(id)
+	for node.Field != storeLeaf {
+		next := node.Lo
+		if h[node.Field] == node.N {
+			next = node.Hi
+		}
+		node, _ = s.Get(next)
+	}
+	return node.Leaf
+}
+
+// take draws a store's diagram anew, and tells its place.
+func (d *draft) take(s *nodes.Store, id int) int {
+	taken := map[int]int{}
+	var down func(id int) int
+	down = func(id int) int {
+		if at, ok := taken[id]; ok {
+			return at
+		}
+		node, _ := s.Get(id)
+		at := 0
+		if node.Field == storeLeaf {
+			at = d.leaf(d.rowsOf(node.Leaf))
+		} else {
+			at = d.test(test{int(node.Field), node.N}, down(node.Hi), down(node.Lo))
+		}
+		taken[id] = at
+		return at
+	}
+	return down(id)
+}
+
+// put brings a diagram into a store. Where it may be too big for that it is put into
+// a copy ahead, for a store takes no node back, and a refused call leaves it as it
+// was. (A store that is full stays so anyway.)
+func (d *draft) put(s *nodes.Store, at int) int {
+	if room := api.MaxNodes - s.Len(); room > 0 && room < len(d.parts) {
+		d.carry(copyOf(s), at)
+	}
+	return d.carry(s, at)
+}
+
+func (d *draft) carry(s *nodes.Store, at int) int {
+	carried := map[int]int{}
+	var down func(at int) int
+	down = func(at int) int {
+		if id, ok := carried[at]; ok {
+			return id
+		}
+		p := d.parts[at]
+		var id int
+		var e api.Errno
+		if p.isLeaf() {
+			id, e = s.Leaf(d.settings(p.rows))
+		} else {
+			id, e = s.Test(int8(p.field), p.n, down(p.hi), down(p.lo))
+		}
+		must(e == api.OK)
+		carried[at] = id
+		return id
+	}
+	return down(at)
+}
+
+// copyOf has the same nodes by the same numbers, for they come in the same order.
+func copyOf(s *nodes.Store) *nodes.Store {
+	all := nodes.New()
+	for id := range s.Len() {
+		node, _ := s.Get(id)
+		if node.Field == storeLeaf {
+			all.Leaf(node.Leaf)
+		} else {
+			all.Test(node.Field, node.N, node.Hi, node.Lo)
+		}
+	}
+	return all
+}
