@@ -75,7 +75,7 @@ func (d *draft) take(s *nodes.Store, id int) int {
 // a copy ahead, for a store takes no node back, and a refused call leaves it as it
 // was. (A store that is full stays so anyway.)
 func (d *draft) put(s *nodes.Store, at int) int {
-	if room := api.MaxNodes - s.Len(); room > 0 && room < len(d.parts) {
+	if room := api.MaxNodes - s.Len(); room > 0 && !d.isWithin(at, room) {
 		d.carry(copyOf(s), at)
 	}
 	return d.carry(s, at)
