@@ -158,3 +158,23 @@ func TestManyWays(t *testing.T) {
 		t.Error(s.Len(), "nodes")
 	}
 }
+
+// Many tests of a field stand over what sets it to each of their numbers.
+func TestUnder(t *testing.T) {
+	const n = 400
+	some, moves := of(api.Or), of(api.Union)
+	for x := range uint64(n) {
+		some.Kids = append(some.Kids, is(api.Src, x+1))
+		moves.Kids = append(moves.Kids, then(filter(is(api.To, x+1)), set(api.Src, x+1)))
+	}
+	s := nodes.New()
+	node := compiled(t, s, then(filter(some), moves, union(id(), set(api.Port, 1))))
+	for x := range uint64(n) {
+		to := api.Header{api.Src: x + 1, api.To: x + 1}
+		out := to
+		out[api.Port] = 1
+		wantRun(t, s, node, api.Header{api.Src: 9, api.To: x + 1}, to, out)
+		wantRun(t, s, node, api.Header{api.Src: x + 1, api.To: n + 1})
+	}
+	wantRun(t, s, node, api.Header{api.Src: n + 1, api.To: 1})
+}

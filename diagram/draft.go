@@ -22,6 +22,9 @@ const (
 	placeWork = 1 << 3 // a row's in a leaf
 )
 
+// strictWork is less, for where there is more to do it may be only for being strict.
+const strictWork = maxWork >> 3
+
 // maxRows are as many as Run can answer the headers of.
 const maxRows = maxWork / (8 * api.Fields)
 
@@ -105,11 +108,14 @@ type pair struct {
 	what  int8
 }
 
-// draft is where diagrams are put together. Each thing stands there once, and is as
-// small as it can be: two diagrams of a draft that make the same of every header are
-// one, and so a star sees when nothing new has come. (For that, no row below Hi sets
-// the test's field to its N, and no test stands where its Lo alone would do.)
+// draft is where diagrams are put together. Each thing stands there once. In a strict
+// draft two diagrams that make the same of every header are one, and so a star sees when
+// nothing new has come. (For that, no row below Hi sets the test's field to its N, and no
+// test stands where its Lo alone would do.) But what many tests of a field stand over
+// comes to have a form for each: where that is too much, or not little, rows stay as they
+// are in another draft. (A star takes no fewer rounds there: more rows are new.)
 type draft struct {
+	isStrict  bool
 	parts     []part
 	branches  map[branch]int
 	leaves    map[string]int // by their rows' texts
@@ -122,14 +128,18 @@ type draft struct {
 	isLast    bool  // whether the answer has no fewer parts than what is made
 }
 
-func newDraft() *draft {
+func newDraft(isStrict bool) *draft {
 	d := &draft{
+		isStrict: isStrict,
 		branches: map[branch]int{},
 		leaves:   map[string]int{},
 		rows:     []row{{}},
 		numbers:  map[row]int32{},
 		ahead:    map[pair]int{},
 		left:     maxWork,
+	}
+	if isStrict {
+		d.left = strictWork
 	}
 	d.none = d.leaf(nil)
 	d.one = d.leaf([]int32{emptyRow})
@@ -249,7 +259,7 @@ func (d *draft) hold(at int, join func() int) int {
 
 func (d *draft) askHeld() {
 	for _, at := range d.held {
-		must(d.isWithin(at, api.MaxNodes))
+		must(d.size(at, api.MaxNodes) <= api.MaxNodes)
 	}
 }
 
@@ -262,22 +272,22 @@ func (d *draft) aside(join func() int) int {
 	return at
 }
 
-// isWithin tells whether a diagram has at most so many parts.
-func (d *draft) isWithin(at, most int) bool {
+// size is how many parts a diagram has, or one more than so many, if it has more.
+func (d *draft) size(at, most int) int {
 	seen := map[int]struct{}{}
-	var down func(at int) bool
-	down = func(at int) bool {
-		if _, ok := seen[at]; ok {
-			return true
-		}
-		if len(seen) == most {
-			return false
+	var down func(at int)
+	down = func(at int) {
+		if _, ok := seen[at]; ok || len(seen) > most {
+			return
 		}
 		seen[at] = struct{}{}
-		p := &d.parts[at]
-		return p.isLeaf() || down(p.hi) && down(p.lo)
+		if p := &d.parts[at]; !p.isLeaf() {
+			down(p.hi)
+			down(p.lo)
+		}
 	}
-	return down(at)
+	down(at)
+	return len(seen)
 }
 
 // answer is where a diagram goes from here, if its first tests ask for the field and
@@ -297,8 +307,11 @@ func (d *draft) answer(at int, t test) int {
 // fields first that is not told: it is left as it is.
 func (d *draft) given(at int, t test) int {
 	to := d.answer(at, t)
-	if d.parts[to].field < t.field {
+	switch {
+	case d.parts[to].field < t.field:
 		return at
+	case !d.isStrict:
+		return to
 	}
 	return d.without(to, t)
 }

@@ -95,6 +95,21 @@ func TestRoom(t *testing.T) {
 	}
 }
 
+// All nodes of what is made are new ones.
+func TestRoomForNew(t *testing.T) {
+	for room := range 5 {
+		s := nodes.New()
+		a := ask(t, s, api.To, 1, leaf(t, s, sets(api.Src, 1)), leaf(t, s, sets(api.Src, 2)))
+		b := leaf(t, s, sets(api.Port, 3))
+		fill(t, s, room)
+		if join := func() (int, api.Errno) { return Then(s, a, b) }; room < 3 {
+			wantTooBig(t, s, "three nodes", join)
+		} else {
+			wantRun(t, s, made(t)(join()), api.Header{api.To: 1}, api.Header{api.To: 1, api.Src: 1, api.Port: 3})
+		}
+	}
+}
+
 // What is put together on the way needs no room: what comes of it does. (A star of
 // a chain of 63 has a test and a leaf for each.)
 func TestRoomOnTheWay(t *testing.T) {

@@ -181,7 +181,7 @@ func wantRounds(t *testing.T, s *nodes.Store, a, want int) {
 	t.Helper()
 	enough := func(rounds int) (ok bool) {
 		defer func() { ok = recover() == nil }()
-		d := newDraft()
+		d := newDraft(true)
 		d.star(d.take(s, a), rounds)
 		return
 	}

@@ -131,7 +131,7 @@ func TestTooManyNodes(t *testing.T) {
 	a, b := chain(t, s, api.Src, n), chain(t, s, api.Dst, n)
 	wantTooBig(t, s, "Union", func() (int, api.Errno) { return Union(s, a, b) })
 	wantTooBig(t, s, "Then", func() (int, api.Errno) { return Then(s, a, b) })
-	d := newDraft()
+	d := newDraft(true)
 	func() {
 		defer func() { recover() }()
 		x, y := d.take(s, a), d.take(s, b)
@@ -157,7 +157,7 @@ func TestAlike(t *testing.T) {
 		out = ask(t, s, api.Dst, x, leaf(t, s, sets(api.Port, x), sets(api.Port, x, api.Src, 1), sets(api.Port, x, api.Src, n+1)), out)
 		pred = ask(t, s, api.Src, x, one, pred)
 	}
-	d := newDraft()
+	d := newDraft(true)
 	d.then(d.take(s, out), d.take(s, pred))
 	if len(d.ahead) > 400*n {
 		t.Error(len(d.ahead), "pairs")
@@ -172,7 +172,7 @@ func TestAlike(t *testing.T) {
 
 // A field's tests are found by their numbers, in few steps.
 func TestSeek(t *testing.T) {
-	d := newDraft()
+	d := newDraft(true)
 	end := d.test(test{api.Dst, 3}, d.one, d.none)
 	for _, count := range []uint64{1, 2, 3, 4, 7, 8, 31, 32, 1000} {
 		at := end

@@ -71,14 +71,46 @@ func (d *draft) take(s *nodes.Store, id int) int {
 	return down(id)
 }
 
+// fewParts are so few that it is not worth while to look for fewer.
+const fewParts = 1 << 10
+
+// sketch is a diagram of a draft. One that was too big has no draft.
+type sketch struct {
+	*draft
+	at, size int
+}
+
+func sketched(d *draft, join func(d *draft) int) sketch {
+	at, e := attempt(func() int { return join(d) })
+	if e != api.OK {
+		return sketch{size: api.MaxNodes + 1}
+	}
+	return sketch{draft: d, at: at, size: d.size(at, api.MaxNodes)}
+}
+
+// attempt tells what does not fit from what was made.
+func attempt(do func() int) (at int, fault api.Errno) {
+	defer func() {
+		if recover() != nil {
+			at, fault = 0, api.ErrTooBig
+		}
+	}()
+	return do(), api.OK
+}
+
 // put brings a diagram into a store. Where it may be too big for that it is put into
 // a copy ahead, for a store takes no node back, and a refused call leaves it as it
 // was. (A store that is full stays so anyway.)
-func (d *draft) put(s *nodes.Store, at int) int {
-	if room := api.MaxNodes - s.Len(); room > 0 && !d.isWithin(at, room) {
-		d.carry(copyOf(s), at)
+func (x sketch) put(s *nodes.Store) (int, api.Errno) {
+	if x.draft == nil {
+		return 0, api.ErrTooBig
 	}
-	return d.carry(s, at)
+	return attempt(func() int {
+		if room := api.MaxNodes - s.Len(); room > 0 && x.size > room {
+			x.carry(copyOf(s), x.at)
+		}
+		return x.carry(s, x.at)
+	})
 }
 
 func (d *draft) carry(s *nodes.Store, at int) int {
